@@ -536,7 +536,7 @@ func byTheWords(t *testing.T, b Box, c Cast) {
 	}
 }
 
-// All boxes of up to three casts of few who want few things, those that may not be among them.
+// All boxes of up to two casts (in view 0, of members 0 and 1, or 0 to 2, up to three) of three who want one of five things; those that may not be are among them.
 func TestByTheWordsOfSmallBoxes(t *testing.T) {
 	var casts []Cast
 	for who := range uint8(3) {
